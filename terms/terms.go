@@ -2,6 +2,9 @@
 package terms
 
 import (
+	"strconv"
+	"strings"
+
 	"coilrack/api"
 )
 
@@ -16,6 +19,53 @@ func IsKey(s string) bool {
 		}
 	}
 	return true
+}
+
+// AllKeys reports whether all strings of a list are keys.
+func AllKeys(l []string) bool {
+	for _, s := range l {
+		if !IsKey(s) {
+			return false
+		}
+	}
+	return true
+}
+
+// IsMoment reports whether n is a moment: a minute from 0 to End - 1.
+func IsMoment(n int) bool { return Between(n, 0, api.End-1) }
+
+// Between reports whether n is from least to most.
+func Between(n, least, most int) bool { return least <= n && n <= most }
+
+// AllBetween reports whether all numbers of a list are from least to most.
+func AllBetween(l []int, least, most int) bool {
+	for _, n := range l {
+		if !Between(n, least, most) {
+			return false
+		}
+	}
+	return true
+}
+
+// Number reads a whole string that is a number of 1 to most decimal digits (without a 0 before others), with - before them if it is below 0; false if it is none.
+func Number(s string, most int) (int, bool) {
+	digits := strings.TrimPrefix(s, "-")
+	if !Between(len(digits), 1, most) {
+		return 0, false
+	}
+	for i := range len(digits) {
+		if !isDigit(digits[i]) {
+			return 0, false
+		}
+	}
+	if digits[0] == '0' && s != "0" {
+		return 0, false
+	}
+	n, err := strconv.Atoi(s)
+	if err != nil { // more digits than an int has
+		return 0, false
+	}
+	return n, true
 }
 
 func isSmall(b byte) bool { return 'a' <= b && b <= 'z' }

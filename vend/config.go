@@ -23,7 +23,7 @@ func CheckConfig(c api.Config) api.Errno {
 	if e := checkSlots(c.Slots); e != api.OK {
 		return e
 	}
-	if !between(c.Highest, 1, api.MaxAmount) {
+	if !terms.Between(c.Highest, 1, api.MaxAmount) {
 		return api.ErrArg
 	}
 	return api.OK
@@ -34,7 +34,7 @@ func checkTakes(l []int) api.Errno {
 		return api.ErrLarge
 	}
 	for i, v := range l {
-		if !between(v, 1, api.MaxAmount) {
+		if !terms.Between(v, 1, api.MaxAmount) {
 			return api.ErrArg
 		}
 		if i > 0 && v <= l[i-1] {
@@ -61,7 +61,7 @@ func checkSlots(l []api.Slot) api.Errno {
 		if !terms.IsKey(s.Product) {
 			return api.ErrName
 		}
-		if !between(s.Price, 1, api.MaxAmount) || !between(s.Most, 0, maxMost) || !between(s.Count, 0, s.Most) {
+		if !terms.Between(s.Price, 1, api.MaxAmount) || !terms.Between(s.Most, 0, maxMost) || !terms.Between(s.Count, 0, s.Most) {
 			return api.ErrArg
 		}
 	}

@@ -4,6 +4,7 @@ import (
 	"slices"
 
 	"coilrack/api"
+	"coilrack/terms"
 )
 
 // Machine takes coins, and sells.
@@ -163,7 +164,7 @@ func (m *Machine) Price(slot string, price int) api.Errno {
 	if b == nil {
 		return api.ErrNone
 	}
-	if !between(price, 1, api.MaxAmount) {
+	if !terms.Between(price, 1, api.MaxAmount) {
 		return api.ErrArg
 	}
 	b.Price = price
