@@ -4,6 +4,7 @@ package terms
 import (
 	"strconv"
 	"strings"
+	"unicode/utf8"
 
 	"coilrack/api"
 )
@@ -25,6 +26,19 @@ func IsKey(s string) bool {
 func AllKeys(l []string) bool {
 	for _, s := range l {
 		if !IsKey(s) {
+			return false
+		}
+	}
+	return true
+}
+
+// IsPlain reports whether s is plain: UTF-8 without bytes below 32 and without 127, without blanks at its ends, and without two blanks next to each other.
+func IsPlain(s string) bool {
+	if !utf8.ValidString(s) || strings.HasPrefix(s, " ") || strings.HasSuffix(s, " ") || strings.Contains(s, "  ") {
+		return false
+	}
+	for i := range len(s) {
+		if s[i] < ' ' || s[i] == 127 {
 			return false
 		}
 	}

@@ -34,6 +34,25 @@ func TestIsKey(t *testing.T) {
 	}
 }
 
+// Z11: plain.
+func TestIsPlain(t *testing.T) {
+	for _, s := range []string{
+		"", "a", "A", "!", "~", "a b", "a b c", "bag 1, 2.50", "ä", "1 €", "\u0080", "\u00a0", "a\u2028b", "\U0010ffff", "\ufeff", "\ufffd", strings.Repeat("a ", 50_000) + "a",
+	} {
+		if !terms.IsPlain(s) {
+			t.Errorf("%.9q is plain", s)
+		}
+	}
+	for _, s := range []string{
+		" ", "  ", " a", "a ", "a  b", "a   b", "\x00", "\n", "a\nb", "a\n", "\t", "\x1f", "a\x1f", "\x7f", "a\x7fb", "\r",
+		"\xff", "a\x80", "\xc3", "\xc0\x80", "\xe0\x80\x80", "\xed\xa0\x80", "\xf4\x90\x80\x80", "\xf8\x88\x80\x80\x80",
+	} {
+		if terms.IsPlain(s) {
+			t.Errorf("%q is not plain", s)
+		}
+	}
+}
+
 // Z11: a moment.
 func TestIsMoment(t *testing.T) {
 	for n, want := range map[int]bool{
