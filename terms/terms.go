@@ -32,6 +32,19 @@ func AllKeys(l []string) bool {
 	return true
 }
 
+// CheckKeys says what is wrong with keys each of which must be greater than the one before.
+func CheckKeys(l []string) api.Errno {
+	for i, s := range l {
+		if !IsKey(s) {
+			return api.ErrName
+		}
+		if i > 0 && s <= l[i-1] {
+			return api.ErrOrder
+		}
+	}
+	return api.OK
+}
+
 // IsPlain reports whether s is plain: UTF-8 without bytes below 32 and without 127, without blanks at its ends, and without two blanks next to each other.
 func IsPlain(s string) bool {
 	if !utf8.ValidString(s) || strings.HasPrefix(s, " ") || strings.HasSuffix(s, " ") || strings.Contains(s, "  ") {

@@ -34,6 +34,28 @@ func TestIsKey(t *testing.T) {
 	}
 }
 
+// Keys that rise, and what is wrong with others.
+func TestCheckKeys(t *testing.T) {
+	for _, x := range []struct {
+		l    []string
+		want api.Errno
+	}{
+		{nil, api.OK},
+		{[]string{"b"}, api.OK},
+		{[]string{"a", "a-", "a0", "a_", "aa", "b"}, api.OK},
+		{[]string{"b", "b"}, api.ErrOrder},
+		{[]string{"a", "c", "b"}, api.ErrOrder},
+		{[]string{""}, api.ErrName},
+		{[]string{"b", "A"}, api.ErrName}, // not ErrOrder, though it is less
+		{[]string{"b", "a", ""}, api.ErrOrder},
+		{[]string{"", "b", "a"}, api.ErrName},
+	} {
+		if e := terms.CheckKeys(x.l); e != x.want {
+			t.Errorf("%q: %d", x.l, e)
+		}
+	}
+}
+
 // Z11: plain.
 func TestIsPlain(t *testing.T) {
 	for _, s := range []string{
