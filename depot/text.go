@@ -1,6 +1,7 @@
 package depot
 
 import (
+	"slices"
 	"strconv"
 	"strings"
 
@@ -49,12 +50,12 @@ func Parse(text string) (api.Wallet, int, api.Errno) {
 	return w, 0, api.OK
 }
 
-// readLine reads the line with a number into a wallet that has those before it; false if it has another form. What sites are called is not a line's form, but a matter of CheckWallet.
+// readLine reads the line with a number into a wallet that has those before it; false if it has another form. A blank that is before nothing is another form; what a site is called is not, but a matter of CheckWallet.
 func readLine(w *api.Wallet, at int, line string) bool {
 	line, ended := strings.CutSuffix(line, "\n")
 	words := strings.Split(line, " ")
 	switch {
-	case !ended || at > len(w.Sites):
+	case !ended || at > len(w.Sites) || slices.Contains(words, ""):
 		return false
 	case at == 0:
 		w.Sites = words[1:]

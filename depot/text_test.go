@@ -134,14 +134,25 @@ func TestParseErrors(t *testing.T) {
 		"a line before the sites":        {"wallet b a\nb 0 0 0\na 0 0 x\n", 2, api.ErrSyntax},
 		"a site that is no number":       {"wallet 5\n5 0\n", 1, api.ErrSyntax},
 
+		"a blank, and no sites":              {"wallet \n", 0, api.ErrSyntax},
+		"a blank, and a line of nothing":     {"wallet \n 0 0\n", 0, api.ErrSyntax},
+		"a blank, and a site line":           {"wallet \na 0 0\n", 0, api.ErrSyntax},
+		"two blanks, and no sites":           {"wallet  \n 0 0 0\n 0 0 0\n", 0, api.ErrSyntax},
+		"two blanks before the sites":        {"wallet  a\na 0 0\n", 0, api.ErrSyntax},
+		"two blanks, and a line of nothing":  {"wallet  a\n 0 0 0\na 0 0 0\n", 0, api.ErrSyntax},
+		"two blanks between the sites":       {"wallet a  c\na 0 0 0 0\n 0 0 0 0\nc 0 0 5 0\n", 0, api.ErrSyntax},
+		"a blank behind the sites":           {"wallet a b \na 100 40 0\nb 0 0 30\n", 0, api.ErrSyntax},
+		"two blanks behind the sites":        {"wallet a b  \na 100 40 0\nb 0 0 30\n", 0, api.ErrSyntax},
+		"a blank behind a site that is none": {"wallet A \nA 0 0\n", 0, api.ErrSyntax},
+		"a blank behind, and no line feed":   {"wallet a ", 0, api.ErrSyntax},
+		"a blank before what is too much":    {"wallet  a\na 0 0\na 0 0\n", 0, api.ErrSyntax},
+
 		"no sites":                {"wallet\n", 0, api.ErrNone},
 		"no sites, but a line":    {"wallet\na 0 0\n", 1, api.ErrSyntax},
 		"13 sites":                {thirteen.String(), 0, api.ErrLarge},
 		"a site that is no key":   {"wallet a B\na 0 0 0\nB 0 0 0\n", 0, api.ErrName},
 		"a number as a site":      {"wallet 5\n5 0 0\n", 0, api.ErrName},
-		"an empty site":           {"wallet \n 0 0\n", 0, api.ErrName},
-		"an empty site, no line":  {"wallet \n", 1, api.ErrSyntax},
-		"an empty site too much":  {"wallet  a\na 0 0\n", 1, api.ErrSyntax},
+		"a tab as a site":         {"wallet \t\n\t 0 0\n", 0, api.ErrName},
 		"equal sites":             {"wallet a a\na 0 0 0\na 0 0 0\n", 0, api.ErrOrder},
 		"falling sites":           {"wallet b a\nb 0 0 0\na 0 0 0\n", 0, api.ErrOrder},
 		"name before numbers":     {"wallet A\nA -1 0\n", 0, api.ErrName},
@@ -178,14 +189,14 @@ func TestParseLimits(t *testing.T) {
 	isLarge("a longer word", strings.Repeat("w", api.MaxText+1), 0, api.ErrLarge)
 	isLarge("line feeds", strings.Repeat("\n", api.MaxText), 0, api.ErrSyntax)
 	isLarge("blanks", strings.Repeat(" ", api.MaxText), 0, api.ErrSyntax)
-	isLarge("empty sites", "wallet"+strings.Repeat(" ", api.MaxText-7)+"\n", 1, api.ErrSyntax)
+	isLarge("blanks behind the word", "wallet"+strings.Repeat(" ", api.MaxText-7)+"\n", 0, api.ErrSyntax)
 	isLarge("many sites", "wallet"+strings.Repeat(" a", 300)+"\n"+strings.Repeat("a"+strings.Repeat(" 0", 301)+"\n", 300), 0, api.ErrLarge)
 }
 
 // The forms of lines that Parse has to read.
 var (
-	headForm = regexp.MustCompile(`^wallet((?: [^ \n]*)*)\n$`)
-	siteForm = regexp.MustCompile(`^([^ \n]*)((?: (?:0|-?[1-9][0-9]{0,9}))*)\n$`)
+	headForm = regexp.MustCompile(`^wallet((?: [^ \n]+)*)\n$`)
+	siteForm = regexp.MustCompile(`^([^ \n]+)((?: (?:0|-?[1-9][0-9]{0,9}))*)\n$`)
 )
 
 // parseSlowly is Parse by the forms of lines, without CheckWallet: false if a line has another one.
